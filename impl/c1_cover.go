@@ -349,9 +349,9 @@ func isSpare(m []int, suite [][]int, t int, i int) bool {
 	return len(fewer) == len(missingPatterns(m, suite, t))
 }
 
-// without returns a new list of the tests of the suite but that at index i.
-func without(suite [][]int, i int) [][]int {
-	return slices.Concat(suite[:i], suite[i+1:])
+// without returns a new list of all that list has but what is at index i.
+func without[E any](list []E, i int) []E {
+	return slices.Concat(list[:i], list[i+1:])
 }
 
 // copyLists returns copies of the lists that share no memory with them.

@@ -92,25 +92,36 @@ func overwrite(t *testing.T, name string, lists [][]int) {
 	clear(lists)
 }
 
-func TestNothingIsChangedOrShared(t *testing.T) {
+// checkMemory checks that calls with the arguments change none of them, return
+// the same again, and share no memory with them or within a result. The calls
+// return the results that are slices by the names of the functions.
+func checkMemory(t *testing.T, all func() [][]int, calls func() map[string][][]int) {
+	t.Helper()
+	before := all()
+	results := calls()
+	first := map[string][][]int{}
+	for name, lists := range results {
+		first[name] = copyOf(lists)
+	}
+	mustNot(t, !sameLists(all(), before), "arguments changed", before)
+	for name, lists := range results {
+		overwrite(t, name, lists)
+		mustNot(t, !sameLists(all(), before), "a result shares memory with an argument", name, before)
+	}
+	for name, lists := range calls() {
+		mustNot(t, !sameLists(lists, first[name]), "a result is kept from call to call", name, before)
+	}
+}
+
+func TestCoverageChangesAndSharesNothing(t *testing.T) {
 	for strength := range 4 {
 		for _, suite := range []string{"", "000", "000,000,011,101,110", "000,120,000,021,120"} {
 			a := arguments{roomy([]int{2, 3, 2}), roomy([]int{1, 2, 0}), roomy([]int{1, Any, Any}), roomy([]int{Any, 2, Any}), roomyLists(read(suite))}
-			before := a.all()
-			results := memoryCalls(a, strength)
-			first := map[string][][]int{}
-			for name, lists := range results {
-				first[name] = copyOf(lists)
-			}
-			mustNot(t, !sameLists(a.all(), before), "arguments changed", strength, suite)
-			mustNot(t, len(results["JoinPatterns"][0]) != 3 || len(results["ParsePattern"][0]) != 3, "patterns", results)
-			for name, lists := range results {
-				overwrite(t, name, lists)
-				mustNot(t, !sameLists(a.all(), before), "a result shares memory with an argument", name, strength, suite)
-			}
-			for name, lists := range memoryCalls(a, strength) {
-				mustNot(t, !sameLists(lists, first[name]), "a result is kept from call to call", name, strength, suite)
-			}
+			checkMemory(t, a.all, func() map[string][][]int {
+				results := memoryCalls(a, strength)
+				mustNot(t, len(results["JoinPatterns"][0]) != 3 || len(results["ParsePattern"][0]) != 3, "patterns", results)
+				return results
+			})
 		}
 	}
 }
