@@ -303,25 +303,31 @@ func refusesCoverage(t *testing.T, m []int, suite [][]int, strength int) {
 	mustNot(t, len(impl.TrimSuite(m, suite, strength)) != 0, "TrimSuite", m, suite, strength)
 }
 
-func TestInvalidArgumentsOfCoverage(t *testing.T) {
+// refused calls a function with arguments that are not those of IsCovering.
+func refused(t *testing.T, refuses func(t *testing.T, m []int, suite [][]int, strength int)) {
+	t.Helper()
 	m := []int{2, 1}
 	// Tests that cover and are spare would show in each result.
 	for _, suite := range [][][]int{read("00,10,00,10"), nil} {
 		for _, strength := range []int{-1, 3, 4, 1 << 62, -1 << 63} {
-			refusesCoverage(t, m, suite, strength)
+			refuses(t, m, suite, strength)
 		}
 	}
 	for strength := range len(m) + 1 {
 		for _, suite := range [][][]int{append(times(impl.MaxTests, 0, 0), []int{1, 0}), read("00,10,00,20"), read("00,10,00,.0"), read("00,10,000"), {{0, 0}, {1, 0}, nil}} {
-			refusesCoverage(t, m, suite, strength)
+			refuses(t, m, suite, strength)
 		}
 	}
 	for _, bad := range invalidModels() {
 		for strength := -1; strength <= len(bad)+1; strength++ {
-			refusesCoverage(t, bad, nil, strength)
-			refusesCoverage(t, bad, times(2, make([]int, len(bad))...), strength)
+			refuses(t, bad, nil, strength)
+			refuses(t, bad, times(2, make([]int, len(bad))...), strength)
 		}
 	}
+}
+
+func TestInvalidArgumentsOfCoverage(t *testing.T) {
+	refused(t, refusesCoverage)
 }
 
 // The greatest model and the most tests are allowed.

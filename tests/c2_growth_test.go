@@ -336,21 +336,5 @@ func refusesGrowth(t *testing.T, m []int, suite [][]int, strength int) {
 }
 
 func TestInvalidArgumentsOfGrowth(t *testing.T) {
-	m := []int{2, 1}
-	for _, suite := range [][][]int{read("00,10"), nil} {
-		for _, strength := range []int{-1, 3, 4, 1 << 62, -1 << 63} {
-			refusesGrowth(t, m, suite, strength)
-		}
-	}
-	for strength := range len(m) + 1 {
-		for _, suite := range [][][]int{append(times(impl.MaxTests, 0, 0), []int{1, 0}), read("00,10,20"), read("00,.0"), read("00,10,000"), {{0, 0}, {1, 0}, nil}} {
-			refusesGrowth(t, m, suite, strength)
-		}
-	}
-	for _, bad := range invalidModels() {
-		for strength := -1; strength <= len(bad)+1; strength++ {
-			refusesGrowth(t, bad, nil, strength)
-			refusesGrowth(t, bad, times(2, make([]int, len(bad))...), strength)
-		}
-	}
+	refused(t, refusesGrowth)
 }
